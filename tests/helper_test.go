@@ -5,6 +5,8 @@ import (
 	"math"
 	"strings"
 	"testing"
+
+	"loop.example/g01365/impl"
 )
 
 // show tells values to the last bit: floats by their bits, all not-a-numbers alike.
@@ -33,6 +35,12 @@ func showOne(v any) string {
 		return showList(x)
 	case []int64:
 		return showList(x)
+	case []impl.Game:
+		return showList(x)
+	case impl.Game:
+		return fmt.Sprintf("{%d %d %s %s}", x.Rows, x.Columns, showList(x.A), showList(x.B))
+	case impl.Player:
+		return fmt.Sprintf("{%s %s}", showList(x.Moves), showList(x.Next))
 	case bool, int64:
 		return fmt.Sprint(x)
 	}

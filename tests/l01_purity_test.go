@@ -9,7 +9,7 @@ import (
 	"loop.example/g01365/impl"
 )
 
-// call is a function of chapter 1 with arguments; it tells its results.
+// call is a function with arguments; it tells its results.
 type call struct {
 	name string
 	run  func() string
@@ -101,18 +101,23 @@ func callsWithTexts() []call {
 	return list
 }
 
-// TestEqualArgumentsHaveEqualResults makes the same calls in order, backwards and
-// side by side: nothing that is kept may show, and every call must come back.
 func TestEqualArgumentsHaveEqualResults(t *testing.T) {
-	calls := append(append(callsWithNumbers(), callsWithLists()...), callsWithTexts()...)
+	testEqualResults(t, append(append(callsWithNumbers(), callsWithLists()...), callsWithTexts()...), 40)
+}
+
+// testEqualResults makes the same calls in order, backwards and side by side:
+// nothing that is kept may show, and every call must come back. The calls are
+// of all the functions of a chapter.
+func testEqualResults(t *testing.T, calls []call, functions int) {
+	t.Helper()
 	names := map[string]bool{}
 	first := make([]string, len(calls))
 	for i, c := range calls {
 		names[c.name] = true
 		first[i] = c.run()
 	}
-	if len(names) != 40 {
-		t.Errorf("%d functions are called, not the 40 of the chapter", len(names))
+	if len(names) != functions {
+		t.Errorf("%d functions are called, not the %d of the chapter", len(names), functions)
 	}
 	for i := len(calls) - 1; i >= 0; i-- {
 		is(t, calls[i].name+" again", calls[i].run(), first[i])
