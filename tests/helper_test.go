@@ -35,8 +35,14 @@ func showOne(v any) string {
 		return showList(x)
 	case []int64:
 		return showList(x)
+	case [][]int64:
+		return showList(x)
 	case []impl.Game:
 		return showList(x)
+	case []impl.Worths:
+		return showList(x)
+	case impl.Worths:
+		return fmt.Sprintf("{%d %s}", x.Players, showList(x.Worths))
 	case impl.Game:
 		return fmt.Sprintf("{%d %d %s %s}", x.Rows, x.Columns, showList(x.A), showList(x.B))
 	case impl.Player:

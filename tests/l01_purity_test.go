@@ -144,6 +144,25 @@ func guarded[T any](list []T, other T) ([]T, func() bool) {
 	return part, func() bool { return show(any(memory)) == before }
 }
 
+// guardAll puts lists into guarded memory, and returns a test that nothing in
+// all that memory has changed.
+func guardAll(lists ...*[]int64) func() bool {
+	var checks []func() bool
+	for _, list := range lists {
+		part, isSame := guarded(*list, 77)
+		*list = part
+		checks = append(checks, isSame)
+	}
+	return func() bool {
+		for _, isSame := range checks {
+			if !isSame() {
+				return false
+			}
+		}
+		return true
+	}
+}
+
 func TestArgumentsStayAsTheyAre(t *testing.T) {
 	unchanged := func(name string, checks ...func() bool) {
 		t.Helper()

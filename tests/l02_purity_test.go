@@ -102,29 +102,12 @@ func TestEqualTablesHaveEqualResults(t *testing.T) {
 // guardedTable has a table in guarded memory, and tells whether all of it has
 // stayed as it was.
 func guardedTable(x table) (table, func() bool) {
-	var checks []func() bool
-	put := func(list *[]int64) {
-		part, isSame := guarded(*list, 77)
-		*list = part
-		checks = append(checks, isSame)
-	}
-	put(&x.g.A)
-	put(&x.g.B)
-	put(&x.a.Moves)
-	put(&x.a.Next)
-	put(&x.b.Moves)
-	put(&x.b.Next)
+	sameIntegers := guardAll(&x.g.A, &x.g.B, &x.a.Moves, &x.a.Next, &x.b.Moves, &x.b.Next)
 	rows, sameRows := guarded(x.rows, 0.125)
 	columns, sameColumns := guarded(x.columns, 0.125)
 	x.rows, x.columns = rows, columns
-	checks = append(checks, sameRows, sameColumns)
 	return x, func() bool {
-		for _, isSame := range checks {
-			if !isSame() {
-				return false
-			}
-		}
-		return true
+		return sameIntegers() && sameRows() && sameColumns()
 	}
 }
 
@@ -207,24 +190,31 @@ func spoil(list []int64) {
 	}
 }
 
+// testNewMemory calls again, spoils all memory of what this returns, list by
+// list, and looks at all the rest.
+func testNewMemory(t *testing.T, f lists, isSame func() bool) {
+	t.Helper()
+	first, again := f.run(), f.run()
+	want := showLists(first)
+	is(t, f.name+" again", showLists(again), want)
+	for i := range again {
+		rest := showLists(again[i+1:])
+		spoil(again[i])
+		is(t, f.name+", the other list", showLists(again[i+1:]), rest)
+	}
+	is(t, f.name+", the first result", showLists(first), want)
+	if !isSame() {
+		t.Fatalf("%s shares memory with an argument", f.name)
+	}
+	is(t, f.name+" once more", showLists(f.run()), want)
+}
+
 func TestResultsOfTablesAreNewMemory(t *testing.T) {
 	d := dice(55)
 	for _, g := range someGames() {
 		x, isSame := guardedTable(d.tableWith(g))
 		for _, f := range listsOfTable(x) {
-			first, again := f.run(), f.run()
-			want := showLists(first)
-			is(t, f.name+" again", showLists(again), want)
-			for i := range again {
-				rest := showLists(again[i+1:])
-				spoil(again[i])
-				is(t, f.name+", the other list", showLists(again[i+1:]), rest)
-			}
-			is(t, f.name+", the first result", showLists(first), want)
-			if !isSame() {
-				t.Fatalf("%s shares memory with an argument", f.name)
-			}
-			is(t, f.name+" once more", showLists(f.run()), want)
+			testNewMemory(t, f, isSame)
 		}
 	}
 }

@@ -57,15 +57,12 @@ func TestGamesSharedNeedsValidGames(t *testing.T) {
 	}
 }
 
-// TestWorkersEndWithTheCall lets no worker stay behind, whether calls succeed
-// or fail.
-func TestWorkersEndWithTheCall(t *testing.T) {
+// testWorkersEnd lets no worker of a call stay behind.
+func testWorkersEnd(t *testing.T, call func()) {
+	t.Helper()
 	before := runtime.NumGoroutine()
 	for range 200 {
-		impl.GamesShared(copies(dilemma(), 16), 8)
-		impl.GamesShared(copies(impl.Game{}, 16), 8)
-		impl.GamesShared(nil, 8)
-		impl.GamesShared(copies(dilemma(), 17), 8)
+		call()
 	}
 	for range 100 {
 		if runtime.NumGoroutine() <= before {
@@ -74,4 +71,14 @@ func TestWorkersEndWithTheCall(t *testing.T) {
 		time.Sleep(10 * time.Millisecond)
 	}
 	t.Errorf("%d goroutines before the calls, %d behind them", before, runtime.NumGoroutine())
+}
+
+// TestWorkersEndWithTheCall has calls that succeed, and calls that fail.
+func TestWorkersEndWithTheCall(t *testing.T) {
+	testWorkersEnd(t, func() {
+		impl.GamesShared(copies(dilemma(), 16), 8)
+		impl.GamesShared(copies(impl.Game{}, 16), 8)
+		impl.GamesShared(nil, 8)
+		impl.GamesShared(copies(dilemma(), 17), 8)
+	})
 }
