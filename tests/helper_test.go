@@ -45,6 +45,10 @@ func showOne(v any) string {
 		return fmt.Sprintf("{%d %s}", x.Players, showList(x.Worths))
 	case impl.Game:
 		return fmt.Sprintf("{%d %d %s %s}", x.Rows, x.Columns, showList(x.A), showList(x.B))
+	case impl.Values:
+		return fmt.Sprintf("{%d %d %s}", x.Players, x.Things, showList(x.Worths))
+	case impl.Cake:
+		return fmt.Sprintf("{%d %d %s}", x.Players, x.Pieces, showList(x.Worths))
 	case impl.Player:
 		return fmt.Sprintf("{%s %s}", showList(x.Moves), showList(x.Next))
 	case bool, int64:
