@@ -47,6 +47,10 @@ func showOne(v any) string {
 		return fmt.Sprintf("{%d %d %s %s}", x.Rows, x.Columns, showList(x.A), showList(x.B))
 	case impl.Values:
 		return fmt.Sprintf("{%d %d %s}", x.Players, x.Things, showList(x.Worths))
+	case impl.Wishes:
+		return fmt.Sprintf("{%s %s}", showList(x.Left), showList(x.Right))
+	case []impl.Wishes:
+		return showList(x)
 	case impl.Cake:
 		return fmt.Sprintf("{%d %d %s}", x.Players, x.Pieces, showList(x.Worths))
 	case impl.Player:
