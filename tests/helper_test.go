@@ -51,6 +51,10 @@ func showOne(v any) string {
 		return fmt.Sprintf("{%s %s}", showList(x.Left), showList(x.Right))
 	case []impl.Wishes:
 		return showList(x)
+	case impl.Crowd:
+		return fmt.Sprintf("{%d %d %s %s}", x.Users, x.Roads, showList(x.Ways), showList(x.Costs))
+	case []impl.Crowd:
+		return showList(x)
 	case impl.Cake:
 		return fmt.Sprintf("{%d %d %s}", x.Players, x.Pieces, showList(x.Worths))
 	case impl.Player:
